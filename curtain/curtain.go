@@ -3,6 +3,8 @@ package curtain
 
 import (
 	"curtain/api"
+	"curtain/eval"
+	"curtain/explain"
 	"curtain/plain"
 	"curtain/plan"
 	"curtain/read"
@@ -12,44 +14,92 @@ import (
 func Plain(text string) (form string, number int, errno api.Errno) {
 	defer func() {
 		if caught := recover(); caught != nil {
-			form, number, errno = "", placeOf(caught), api.ErrText
+			form = ""
+			number, errno = faultOf(caught)
 		}
 	}()
-	if len(text) > api.MaxText {
-		return "", 0, api.ErrLimit
-	}
-	items := read.Items(text)
-	number, errno = plan.Check(items)
+	items, number, errno := itemsOf(text)
 	if errno != api.OK {
 		return "", number, errno
 	}
 	return plain.Write(items), len(items), api.OK
 }
 
-// placeOf lets go on what the reader of texts did not panic with: that is a
+// itemsOf panics, as the reader does, at a text that is no plan. With an error
+// the number is as Plain tells it.
+func itemsOf(text string) ([]plan.Item, int, api.Errno) {
+	if len(text) > api.MaxText {
+		return nil, 0, api.ErrLimit
+	}
+	items := read.Items(text)
+	number, errno := plan.Check(items)
+	return items, number, errno
+}
+
+// faultOf lets go on what the reader of texts did not panic with: that is a
 // fault of the program, and no answer may hide it.
-func placeOf(caught any) int {
+func faultOf(caught any) (int, api.Errno) {
 	stop, ok := caught.(read.GiveUp)
 	if !ok {
 		panic(caught)
 	}
-	return stop.At
+	return stop.At, api.ErrText
 }
 
-// Plan is inputs and tables.
-type Plan struct{}
+// Plan is inputs and tables. Nothing in it changes once New has made it, so that
+// what its calls answer can't hang on those ahead.
+type Plan struct {
+	items []plan.Item
+}
 
 // New makes a plan (P5).
-func New(text string) (*Plan, api.Errno) { return nil, api.OK }
+func New(text string) (made *Plan, errno api.Errno) {
+	defer func() {
+		if caught := recover(); caught != nil {
+			made = nil
+			_, errno = faultOf(caught)
+		}
+	}()
+	items, _, errno := itemsOf(text)
+	if errno != api.OK {
+		return nil, errno
+	}
+	return &Plan{items}, api.OK
+}
+
+// all has no items of the nil that New gives with an error: a call on it
+// answers like one on an empty plan, where it would panic else.
+func (p *Plan) all() []plan.Item {
+	if p == nil {
+		return nil
+	}
+	return p.items
+}
 
 // Label tells who may know something (P6).
-func (p *Plan) Label(name string) (int, api.Errno) { return 0, api.OK }
+func (p *Plan) Label(name string) (int, api.Errno) {
+	place := plan.Place(p.all(), name)
+	if place < 0 {
+		return 0, api.ErrNone
+	}
+	return plan.Labels(p.all())[place], api.OK
+}
 
 // Eval tells all tables' values (P7).
-func (p *Plan) Eval(values []int) ([]api.Value, api.Errno) { return nil, api.OK }
+func (p *Plan) Eval(values []int) ([]api.Value, api.Errno) {
+	if !plan.Fits(p.all(), values) {
+		return nil, api.ErrArg
+	}
+	return eval.Tables(p.all(), values), api.OK
+}
 
 // Explain tells what a reader may know (P8).
-func (p *Plan) Explain(clear int, values []int) (string, api.Errno) { return "", api.OK }
+func (p *Plan) Explain(clear int, values []int) (string, api.Errno) {
+	if !plan.IsSetOfMarks(clear) || !plan.Fits(p.all(), values) {
+		return "", api.ErrArg
+	}
+	return explain.Write(p.all(), clear, values), api.OK
+}
 
 // Gap finds what a table has no rule for (P9).
 func (p *Plan) Gap(name string) ([]int, bool, api.Errno) { return nil, false, api.OK }

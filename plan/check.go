@@ -43,11 +43,11 @@ func numberBeyondLimits(n int) bool {
 }
 
 func checkItem(item Item, ahead []Item) api.Errno {
-	if named(ahead, item.Name) {
+	if Place(ahead, item.Name) >= 0 {
 		return api.ErrThere
 	}
 	for _, column := range item.Columns {
-		if !named(ahead, column) {
+		if Place(ahead, column) < 0 {
 			return api.ErrNone
 		}
 	}
@@ -59,6 +59,13 @@ func checkItem(item Item, ahead []Item) api.Errno {
 	return api.OK
 }
 
-func named(items []Item, name string) bool {
-	return slices.ContainsFunc(items, func(item Item) bool { return item.Name == name })
+// Fits tells whether values can be those of the inputs.
+func Fits(items []Item, values []int) bool {
+	inputs := 0
+	for _, item := range items {
+		if !item.IsTable {
+			inputs++
+		}
+	}
+	return len(values) == inputs && !slices.ContainsFunc(values, numberBeyondLimits)
 }

@@ -4,12 +4,13 @@ import (
 	"errors"
 	"testing"
 
+	"curtain/api"
 	"curtain/read"
 )
 
-func TestPlaceOfGivingUp(t *testing.T) {
-	if at := placeOf(read.GiveUp{At: 7}); at != 7 {
-		t.Errorf("placeOf: %d, want 7", at)
+func TestFaultOfGivingUp(t *testing.T) {
+	if at, errno := faultOf(read.GiveUp{At: 7}); at != 7 || errno != api.ErrText {
+		t.Errorf("faultOf: %d, %d, want 7, ErrText", at, errno)
 	}
 }
 
@@ -18,10 +19,10 @@ func TestOtherPanicsGoOn(t *testing.T) {
 		func() {
 			defer func() {
 				if caught := recover(); caught != other {
-					t.Errorf("placeOf(%v): caught %v", other, caught)
+					t.Errorf("faultOf(%v): caught %v", other, caught)
 				}
 			}()
-			placeOf(other)
+			faultOf(other)
 		}()
 	}
 }
