@@ -8,6 +8,7 @@ import (
 	"curtain/plain"
 	"curtain/plan"
 	"curtain/read"
+	"curtain/search"
 )
 
 // Plain writes a plan in its plain form (P4).
@@ -102,7 +103,25 @@ func (p *Plan) Explain(clear int, values []int) (string, api.Errno) {
 }
 
 // Gap finds what a table has no rule for (P9).
-func (p *Plan) Gap(name string) ([]int, bool, api.Errno) { return nil, false, api.OK }
+func (p *Plan) Gap(name string) ([]int, bool, api.Errno) {
+	return p.seek(name, func(met int) bool { return met == 0 })
+}
 
 // Overlap finds what a table has several rules for (P9).
-func (p *Plan) Overlap(name string) ([]int, bool, api.Errno) { return nil, false, api.OK }
+func (p *Plan) Overlap(name string) ([]int, bool, api.Errno) {
+	return p.seek(name, func(met int) bool { return met > 1 })
+}
+
+// seek finds the least values of a table's columns for which so many rules are
+// met as is wanted.
+func (p *Plan) seek(name string, wanted func(met int) bool) ([]int, bool, api.Errno) {
+	place := plan.Place(p.all(), name)
+	if place < 0 {
+		return nil, false, api.ErrNone
+	}
+	if !plan.ReadsInputsAlone(p.all(), place) {
+		return nil, false, api.ErrKind
+	}
+	values := search.Least(p.all()[place], wanted)
+	return values, values != nil, api.OK
+}

@@ -4,7 +4,6 @@ import (
 	"slices"
 	"strconv"
 	"strings"
-	"sync"
 	"testing"
 
 	"curtain/api"
@@ -178,22 +177,14 @@ func TestP2EvalAnswersNewMemory(t *testing.T) {
 
 func TestP2PlanHangsOnTextAlone(t *testing.T) {
 	p, other := mustNew(t, example), mustNew(t, "in age;table risk N(age){_=9;}")
-	var all sync.WaitGroup
-	for range 8 {
-		all.Add(1)
-		go func() {
-			defer all.Done()
-			for range 50 {
-				wantEval(t, p, []int{30, 1}, number(5), number(100))
-				wantEval(t, p, []int{30, 0}, number(2), number(50))
-				wantExplain(t, p, 0, []int{30, 1}, "age 30\nill ?\nrisk ?\nfee 100\n")
-				wantExplain(t, p, 1, []int{30, 1}, "age 30\nill 1\nrisk 5 [3]\nfee 100\n")
-				wantEval(t, other, []int{30}, number(1))
-				wantBadArg(t, p, 0, []int{30})
-				wantLabel(t, p, "risk", 1)
-				wantLabel(t, other, "risk", 0)
-			}
-		}()
-	}
-	all.Wait()
+	atOnce(func() {
+		wantEval(t, p, []int{30, 1}, number(5), number(100))
+		wantEval(t, p, []int{30, 0}, number(2), number(50))
+		wantExplain(t, p, 0, []int{30, 1}, "age 30\nill ?\nrisk ?\nfee 100\n")
+		wantExplain(t, p, 1, []int{30, 1}, "age 30\nill 1\nrisk 5 [3]\nfee 100\n")
+		wantEval(t, other, []int{30}, number(1))
+		wantBadArg(t, p, 0, []int{30})
+		wantLabel(t, p, "risk", 1)
+		wantLabel(t, other, "risk", 0)
+	})
 }

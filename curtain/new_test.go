@@ -83,6 +83,7 @@ func TestP1NilPlan(t *testing.T) {
 	wantEval(t, p, nil)
 	wantBadArg(t, p, 0, []int{1})
 	wantExplain(t, p, 0, nil, "")
+	wantNoSeek(t, p, "a", api.ErrNone)
 }
 
 func wantLabel(t *testing.T, p *curtain.Plan, name string, want int) {

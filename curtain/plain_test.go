@@ -292,21 +292,26 @@ func TestP2AnswerIsNewMemory(t *testing.T) {
 	}
 }
 
-func TestP2AnswerHangsOnTextAlone(t *testing.T) {
+// atOnce does the same again and again in several goroutines.
+func atOnce(do func()) {
 	var all sync.WaitGroup
 	for range 8 {
-		all.Add(1)
-		go func() {
-			defer all.Done()
+		all.Go(func() {
 			for range 50 {
-				wantPlain(t, example, examplePlain, 4, api.OK)
-				wantPlain(t, "in age", "", 6, api.ErrText)
-				wantPlain(t, "in a; in a;", "", 2, api.ErrThere)
-				wantPlain(t, "", "", 0, api.OK)
+				do()
 			}
-		}()
+		})
 	}
 	all.Wait()
+}
+
+func TestP2AnswerHangsOnTextAlone(t *testing.T) {
+	atOnce(func() {
+		wantPlain(t, example, examplePlain, 4, api.OK)
+		wantPlain(t, "in age", "", 6, api.ErrText)
+		wantPlain(t, "in a; in a;", "", 2, api.ErrThere)
+		wantPlain(t, "", "", 0, api.OK)
+	})
 }
 
 func TestExamples(t *testing.T) {

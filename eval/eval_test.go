@@ -54,6 +54,22 @@ func TestMet(t *testing.T) {
 	}
 }
 
+func TestCountMet(t *testing.T) {
+	rules := []plan.Rule{
+		{Tests: []plan.Test{{Kind: plan.Below, Low: 4}, {Kind: plan.Any}}},
+		{Tests: []plan.Test{{Kind: plan.Any}, {Kind: plan.Above, Low: 4}}},
+		{Tests: []plan.Test{{Kind: plan.IsNone}, {Kind: plan.Any}}},
+	}
+	for want, numbers := range [][]int{{4, 4}, {4, 5}, {3, 5}} {
+		if got := CountMet(rules, numbers); got != want {
+			t.Errorf("CountMet(%v) = %d, want %d", numbers, got, want)
+		}
+	}
+	if got := CountMet(nil, []int{0}); got != 0 {
+		t.Errorf("CountMet of no rules = %d", got)
+	}
+}
+
 // TestNumbersAlone: the N of None and Clash is 0, but they are no 0.
 func TestNumbersAlone(t *testing.T) {
 	for _, kind := range []plan.Kind{plan.IsNumber, plan.Between, plan.Below, plan.Above} {

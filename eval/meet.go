@@ -5,6 +5,15 @@ import (
 	"curtain/plan"
 )
 
+// CountMet tells how many rules are met, where numbers are the columns' values.
+func CountMet(rules []plan.Rule, numbers []int) int {
+	values := make([]api.Value, len(numbers))
+	for i, n := range numbers {
+		values[i] = number(n)
+	}
+	return len(met(rules, values))
+}
+
 // met tells the places of the rules that are met, where values are those of the
 // columns.
 func met(rules []plan.Rule, values []api.Value) []int {

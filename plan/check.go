@@ -69,3 +69,12 @@ func Fits(items []Item, values []int) bool {
 	}
 	return len(values) == inputs && !slices.ContainsFunc(values, numberBeyondLimits)
 }
+
+// ReadsInputsAlone tells whether the item at a place is a table none of whose
+// columns is one: only then any numbers may be its columns' values.
+func ReadsInputsAlone(items []Item, place int) bool {
+	item := items[place]
+	return item.IsTable && !slices.ContainsFunc(item.Columns, func(column string) bool {
+		return items[Place(items, column)].IsTable
+	})
+}

@@ -41,3 +41,12 @@ func TestCheck(t *testing.T) {
 		}
 	}
 }
+
+func TestReadsInputsAlone(t *testing.T) {
+	items := []Item{{Name: "a"}, {Name: "b"}, table("t", []string{"a", "b", "a"}), table("u", []string{"t"}), table("v", []string{"a", "b", "t"})}
+	for place, want := range []bool{false, false, true, false, false} {
+		if got := ReadsInputsAlone(items, place); got != want {
+			t.Errorf("ReadsInputsAlone(%s) = %v", items[place].Name, got)
+		}
+	}
+}
